@@ -159,6 +159,7 @@ func TestPartFaults(t *testing.T) {
 		"(a.b)\n(1)":                     {Err: api.ErrParse, At: 2},
 		"f(1)\n(2)":                      {Err: api.ErrParse, At: 2},
 		"f[1]\n(2)":                      {Err: api.ErrParse, At: 2},
+		"a^\n(2)":                        {Err: api.ErrParse, At: 2},
 		"5\n(2)":                         {Err: api.ErrParse, At: 2},
 		"NIL\n(2)":                       {Err: api.ErrParse, At: 2},
 		"NEW(T)\n(2)":                    {Err: api.ErrParse, At: 2},

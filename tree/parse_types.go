@@ -7,10 +7,8 @@ func (p *parser) typ() int {
 	switch {
 	case p.seesName():
 		return p.perhapsObject(p.add(p.qname(api.TyName)))
-	case p.sees("ROOT"), p.sees("MUTEX"):
-		return p.perhapsObject(p.add(api.Node{Kind: api.TyPlain, Name: p.skip()}))
 	case isPlain(p.next().Text):
-		return p.add(api.Node{Kind: api.TyPlain, Name: p.skip()})
+		return p.plain()
 	case p.take("["):
 		return p.rangeType()
 	case p.sees("BRANDED"), p.sees("REF"):
@@ -26,6 +24,15 @@ func isPlain(text string) bool {
 		return true
 	}
 	return false
+}
+
+func (p *parser) plain() int {
+	n := api.Node{Kind: api.TyPlain, Name: p.skip()}
+	at := p.add(n)
+	if isSuper(n) {
+		return p.perhapsObject(at)
+	}
+	return at
 }
 
 func (p *parser) rangeType() int {

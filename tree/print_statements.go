@@ -138,7 +138,7 @@ func (p *printer) alternatives(kids []int) {
 	p.put("END")
 }
 
-// arm writes the type of an arm, and its name, which would else look like an argument.
+// arm writes the type of an arm, and its name with a blank ahead of it, even if a name is the last word of the type.
 func (p *printer) arm(n api.Node) {
 	p.typ(n.Kids[0])
 	if n.Var != "" {

@@ -315,6 +315,45 @@ func TestRows(t *testing.T) {
 	}
 }
 
+// B3: each kind of node, with each of its fields as it may not be.
+func TestFieldsOfEachKind(t *testing.T) {
+	g, rows := newGenerator(23), newTable()
+	g.qualifiers = []string{"A"}
+	found := map[uint8]int{}
+	for range 3000 {
+		l := g.tree(g.IntN(15), pick(g, g.typ, g.expr, g.block))
+		for at, n := range l {
+			if found[n.Kind]++; found[n.Kind] <= 2 {
+				compareFields(t, rows, l, at)
+			}
+		}
+	}
+	for kind, name := range kindNames {
+		if found[kind] < 2 {
+			t.Errorf("no tree with %s", name)
+		}
+	}
+}
+
+// compareFields compares trees in which a node has another text, or number, in one of its fields.
+func compareFields(t *testing.T, rows table, l []api.Node, at int) {
+	t.Helper()
+	for _, s := range strangeTexts {
+		for _, set := range []func(*api.Node){func(n *api.Node) { n.Name = s }, func(n *api.Node) { n.Unit = s }, func(n *api.Node) { n.Var = s }} {
+			changed := cloneNodes(l)
+			set(&changed[at])
+			compareRows(t, rows, changed)
+		}
+	}
+	for _, i := range strangeNumbers {
+		for _, set := range []func(*api.Node){func(n *api.Node) { n.N = i }, func(n *api.Node) { n.Type = i }} {
+			changed := cloneNodes(l)
+			set(&changed[at])
+			compareRows(t, rows, changed)
+		}
+	}
+}
+
 // B3: each kind in the place of each kid, and as a root, alone.
 func TestEachKindInEachPlace(t *testing.T) {
 	g, rows := newGenerator(22), newTable()

@@ -56,7 +56,7 @@ func separate[T any](w *writer, sign string, items []T, write func(T)) {
 	}
 }
 
-// isApart reports whether a blank stands between two words or signs. Ahead of the first one, which nothing keeps from it, there is none.
+// isApart reports whether a blank stands between two words or signs. An empty one stands for the sign of one operand.
 func isApart(last, next string) bool {
 	switch next {
 	case ",", ";", ":", ")", "]", "}", ".", "^", "..":
