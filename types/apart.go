@@ -12,33 +12,29 @@ type stride struct {
 	by   int
 }
 
-// tellApart returns the least of the shortest ways that tell a pair apart, and whether there is one. Pairs are looked at in the order of the least ways to them, so that the first one that does not agree ends the search.
-func tellApart(g api.Graph, pair [2]int) ([]int, bool) {
-	if !agree(g[pair[0]], g[pair[1]]) {
-		return nil, true
+// tellApart returns the least of the shortest ways that tell a pair apart, the classes of which are not the same. Pairs are come upon in the order of the least ways to them, so that the first one that does not agree ends the search.
+func tellApart(g api.Graph, class []int, first [2]int) []int {
+	if !agree(g[first[0]], g[first[1]]) {
+		return nil
 	}
-	came := map[[2]int]stride{pair: {}}
-	queue := [][2]int{pair}
-	var last [2]int
-	told := false
+	came := map[[2]int]stride{first: {}}
+	queue := [][2]int{first}
+	last := first
 search:
 	for at := 0; at < len(queue); at++ {
 		for k, next := range besides(g, queue[at]) {
-			if _, ok := came[next]; ok {
+			if _, ok := came[next]; ok || class[next[0]] == class[next[1]] {
 				continue
 			}
 			came[next] = stride{queue[at], k}
 			if !agree(g[next[0]], g[next[1]]) {
-				last, told = next, true
+				last = next
 				break search
 			}
 			queue = append(queue, next)
 		}
 	}
-	if !told {
-		return nil, false
-	}
-	return wayBack(came, pair, last), true
+	return wayBack(came, first, last)
 }
 
 // wayBack returns the way from one pair to another one that a search found.
