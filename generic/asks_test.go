@@ -8,6 +8,14 @@ import (
 	"trestle/generic"
 )
 
+// G4: the chapter's example.
+func TestAsksExample(t *testing.T) {
+	l := parse(t, exampleA+exampleG+exampleI)
+	expectAsks(t, l[1], "E", "T:t")
+	expectAsks(t, l[0], "E", "")
+	expectAsks(t, l[2], "A", "")
+}
+
 // G4: the sort in which a name is used, in each place where it can stand in an interface.
 func TestAsksOfInterfaces(t *testing.T) {
 	for decls, want := range map[string]string{
